@@ -1,0 +1,25 @@
+package lower
+
+// The decoder's instructions, as chapter 14 numbers them: code hands its own numbers to nobody.
+const (
+	opUint = 1 + iota
+	opUints
+	opBool
+	opVarint
+	opSeq
+	opStruct
+	opOption
+	opUnion
+	opArm
+	opOffset
+	opFirst
+	opSlots
+	opItem
+	opLess
+	opParts
+	opCall
+	opPart
+	opTail
+	opJump
+	opRet
+)

@@ -341,7 +341,11 @@ func (d *dice) laidOut(encodes bool, types int) api.Program {
 
 // targeted: the instructions that have a target, by their numbers.
 func targeted(op int) bool {
-	return slices.Contains([]string{"option", "first", "slots", "item", "less", "parts", "jump", "arm", "maybe", "again"}, nameOf(op))
+	switch nameOf(op) {
+	case "option", "first", "slots", "item", "less", "parts", "jump", "arm", "maybe", "again":
+		return true
+	}
+	return false
 }
 
 func cloned(p api.Program) api.Program {

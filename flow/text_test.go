@@ -43,14 +43,20 @@ func machineRows(encodes bool) []row {
 	return tables[0]
 }
 
+// names: of the instructions, by their numbers.
+var names = func() (out [48]string) {
+	for _, r := range slices.Concat(tables[0], tables[1]) {
+		out[r.op] = r.name
+	}
+	return out
+}()
+
 // nameOf: of an instruction's number.
 func nameOf(op int) string {
-	for _, r := range slices.Concat(tables[0], tables[1]) {
-		if r.op == op {
-			return r.name
-		}
+	if op < 0 || op >= len(names) || names[op] == "" {
+		return "?"
 	}
-	return "?"
+	return names[op]
 }
 
 // written: a program as its text says it: instructions parted by ;, its types' entries behind a |. A word with a : names an instruction; an operand or an entry may be such a name.
